@@ -400,15 +400,14 @@ func checkNotPut(t *testing.T, l []impl.Node) {
 	}
 }
 
-func TestPutTreeInvalid(t *testing.T) {
-	checkNotPut(t, nil)
-	checkNotPut(t, []impl.Node{})
+// invalidTrees returns lists that break each rule of a valid tree.
+func invalidTrees() [][]impl.Node {
+	out := [][]impl.Node{nil, {}, draw(chain(impl.MaxDepth + 1)).nodes}
 	for n := impl.MaxNodes + 1; n < 300; n++ {
-		checkNotPut(t, draw(star(n)).nodes)
+		out = append(out, draw(star(n)).nodes)
 	}
-	checkNotPut(t, draw(chain(impl.MaxDepth+1)).nodes)
 	for _, depths := range [][]int{{1}, {12}, {-1}, {0, 0}, {0, 2}, {0, 1, 0}, {0, 1, 3}, {0, 1, 2, 4}, {0, -1}, {1, 2}} {
-		checkNotPut(t, depthsOf(depths...))
+		out = append(out, depthsOf(depths...))
 	}
 	great := append([]int{13, 127, 128, 1 << 14, impl.MaxVar, impl.MaxVar + 1}, far...)
 	for _, d := range append(smallTrees(4), limitTrees()...) {
@@ -416,14 +415,21 @@ func TestPutTreeInvalid(t *testing.T) {
 			for _, n := range append([]int{6, 7}, great...) {
 				l := slices.Clone(d.nodes)
 				l[i].Label = n
-				checkNotPut(t, l)
+				out = append(out, l)
 			}
 			for _, n := range great {
 				l := slices.Clone(d.nodes)
 				l[i].Depth = n
-				checkNotPut(t, l)
+				out = append(out, l)
 			}
 		}
+	}
+	return out
+}
+
+func TestPutTreeInvalid(t *testing.T) {
+	for _, l := range invalidTrees() {
+		checkNotPut(t, l)
 	}
 }
 
@@ -487,29 +493,41 @@ func TestTreeCodeOfNoCode(t *testing.T) {
 	}
 }
 
-func TestPutTreeArgumentStaysAsItIs(t *testing.T) {
-	lists := [][]impl.Node{depthsOf(0, 2, 1), depthsOf(0, 1, 0), draw(star(30)).nodes}
+// checkArgumentStays holds a function of a tree to changing neither its
+// argument nor the unused capacity of it.
+func checkArgumentStays(t *testing.T, call func(l []impl.Node)) {
+	t.Helper()
+	lists := invalidTrees()
 	for _, d := range manyTrees() {
 		lists = append(lists, d.nodes)
 	}
 	for _, l := range lists {
 		full := append(slices.Clone(l), impl.Node{Label: 3, Depth: 1}, impl.Node{Label: 77, Depth: 77})
 		before := slices.Clone(full)
-		impl.PutTree(full[:len(l)])
+		call(full[:len(l)])
 		if !slices.Equal(full, before) {
 			t.Errorf("%v became %v", before, full)
 		}
 	}
 }
 
+// spoil overwrites a result, to show what else changes with it.
+func spoil(l []impl.Node) {
+	l = l[:cap(l)]
+	for i := range l {
+		l[i] = impl.Node{Label: -9, Depth: -9}
+	}
+}
+
+func TestPutTreeArgumentStaysAsItIs(t *testing.T) {
+	checkArgumentStays(t, func(l []impl.Node) { impl.PutTree(l) })
+}
+
 func TestGetTreeResultIsNewMemory(t *testing.T) {
 	for _, d := range manyTrees() {
 		s := impl.PutTree(d.nodes)
 		l, _ := impl.GetTree(s)
-		l = l[:cap(l)]
-		for i := range l {
-			l[i] = impl.Node{Label: -9, Depth: -9}
-		}
+		spoil(l)
 		checkGetTree(t, s, d.nodes)
 	}
 }
