@@ -196,6 +196,44 @@ func checkNotCompared(t *testing.T, l []impl.Node, other []impl.Node, c impl.Cos
 	}
 }
 
+// A noResult holds a function of two trees to its result for arguments of which
+// one is invalid.
+type noResult func(t *testing.T, a []impl.Node, b []impl.Node, c impl.Cost)
+
+// checkCostsBeyondTheirLimits calls check with costs of which one number is just
+// too large or too small.
+func checkCostsBeyondTheirLimits(t *testing.T, check noResult) {
+	t.Helper()
+	some := append(smallTrees(2), limitTrees()...)
+	for _, c := range someCosts() {
+		for table, size := range tableSizes {
+			for i := range size {
+				for n, a := range some {
+					b := some[(n+1)%len(some)].nodes
+					check(t, a.nodes, b, withElement(c, table, i, impl.MaxCost+1))
+					check(t, a.nodes, b, withElement(c, table, i, -1))
+				}
+			}
+		}
+	}
+}
+
+// checkInvalidCosts calls check with costs that are not valid. The nodes need
+// none of the numbers that are wrong, but all of them count.
+func checkInvalidCosts(t *testing.T, check noResult) {
+	t.Helper()
+	for _, c := range invalidCosts() {
+		for _, d := range []*drawn{draw(star(1)), draw(chain(2)), draw(star(impl.MaxNodes))} {
+			check(t, d.nodes, d.nodes, c)
+			check(t, d.nodes, treeIn("p(a b)"), c)
+			check(t, treeIn("p(a b)"), d.nodes, c)
+		}
+		check(t, nil, nil, c)
+		check(t, depthsOf(0, 2), treeIn("div"), c)
+		check(t, treeIn("div"), depthsOf(0, 2), c)
+	}
+}
+
 // levelCost returns costs that are the same for all labels.
 func levelCost(del int, ins int, rel int) impl.Cost {
 	return costFrom(func(table int, i int) int { return free(table, i, []int{del, ins, rel}[table]) })
@@ -542,32 +580,11 @@ func TestDistLargestCosts(t *testing.T) {
 }
 
 func TestDistCostBeyondItsLimit(t *testing.T) {
-	some := append(smallTrees(2), limitTrees()...)
-	for _, c := range someCosts() {
-		for table, size := range tableSizes {
-			for i := range size {
-				for n, a := range some {
-					b := some[(n+1)%len(some)].nodes
-					checkNoDists(t, a.nodes, b, withElement(c, table, i, impl.MaxCost+1))
-					checkNoDists(t, a.nodes, b, withElement(c, table, i, -1))
-				}
-			}
-		}
-	}
+	checkCostsBeyondTheirLimits(t, checkNoDists)
 }
 
-// The nodes need none of the numbers that are wrong, but all of them count.
 func TestDistInvalidCosts(t *testing.T) {
-	for _, c := range invalidCosts() {
-		for _, d := range []*drawn{draw(star(1)), draw(chain(2)), draw(star(impl.MaxNodes))} {
-			checkNoDists(t, d.nodes, d.nodes, c)
-			checkNoDists(t, d.nodes, treeIn("p(a b)"), c)
-			checkNoDists(t, treeIn("p(a b)"), d.nodes, c)
-		}
-		checkNoDists(t, nil, nil, c)
-		checkNoDists(t, depthsOf(0, 2), treeIn("div"), c)
-		checkNoDists(t, treeIn("div"), depthsOf(0, 2), c)
-	}
+	checkInvalidCosts(t, checkNoDists)
 }
 
 func TestDistInvalidTrees(t *testing.T) {

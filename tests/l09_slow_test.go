@@ -793,31 +793,12 @@ func TestForestDistZeroCosts(t *testing.T) {
 }
 
 func TestForestDistCostBeyondItsLimit(t *testing.T) {
-	some := append(smallTrees(2), limitTrees()...)
-	for _, c := range someCosts() {
-		for table, size := range tableSizes {
-			for i := range size {
-				for n, a := range some {
-					b := some[(n+1)%len(some)].nodes
-					checkNoForest(t, a.nodes, b, withElement(c, table, i, impl.MaxCost+1))
-					checkNoForest(t, a.nodes, b, withElement(c, table, i, -1))
-				}
-			}
-		}
-	}
+	checkCostsBeyondTheirLimits(t, checkNoForest)
 }
 
-// The ranges need none of the numbers that are wrong, but all of them count.
 func TestForestDistInvalidCosts(t *testing.T) {
+	checkInvalidCosts(t, checkNoForest)
 	for _, c := range invalidCosts() {
-		for _, d := range []*drawn{draw(star(1)), draw(chain(2)), draw(star(impl.MaxNodes))} {
-			checkNoForest(t, d.nodes, d.nodes, c)
-			checkNoForest(t, d.nodes, treeIn("p(a b)"), c)
-			checkNoForest(t, treeIn("p(a b)"), d.nodes, c)
-		}
-		checkNoForest(t, nil, nil, c)
-		checkNoForest(t, depthsOf(0, 2), treeIn("div"), c)
-		checkNoForest(t, treeIn("div"), depthsOf(0, 2), c)
 		checkForest(t, treeIn("div"), span{0, 2}, treeIn("div"), span{-1, 0}, c, -1)
 	}
 }

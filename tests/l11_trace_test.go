@@ -665,32 +665,11 @@ func TestBestMapLargestCosts(t *testing.T) {
 }
 
 func TestBestMapCostBeyondItsLimit(t *testing.T) {
-	some := append(smallTrees(2), limitTrees()...)
-	for _, c := range someCosts() {
-		for table, size := range tableSizes {
-			for i := range size {
-				for n, a := range some {
-					b := some[(n+1)%len(some)].nodes
-					checkNoBestMap(t, a.nodes, b, withElement(c, table, i, impl.MaxCost+1))
-					checkNoBestMap(t, a.nodes, b, withElement(c, table, i, -1))
-				}
-			}
-		}
-	}
+	checkCostsBeyondTheirLimits(t, checkNoBestMap)
 }
 
-// The nodes need none of the numbers that are wrong, but all of them count.
 func TestBestMapInvalidCosts(t *testing.T) {
-	for _, c := range invalidCosts() {
-		for _, d := range []*drawn{draw(star(1)), draw(chain(2)), draw(star(impl.MaxNodes))} {
-			checkNoBestMap(t, d.nodes, d.nodes, c)
-			checkNoBestMap(t, d.nodes, treeIn("p(a b)"), c)
-			checkNoBestMap(t, treeIn("p(a b)"), d.nodes, c)
-		}
-		checkNoBestMap(t, nil, nil, c)
-		checkNoBestMap(t, depthsOf(0, 2), treeIn("div"), c)
-		checkNoBestMap(t, treeIn("div"), depthsOf(0, 2), c)
-	}
+	checkInvalidCosts(t, checkNoBestMap)
 }
 
 func TestBestMapInvalidTrees(t *testing.T) {
