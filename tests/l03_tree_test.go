@@ -98,13 +98,19 @@ func smallTrees(n int) []*drawn {
 	return out
 }
 
-// variedTree returns a tree of n nodes whose shape and labels the seed decides:
-// each node is put below one of the nodes before it that may have children.
-func variedTree(n int, seed uint32) *drawn {
-	next := func(limit int) int {
+// numbersFrom returns a function that gives one number from 0 to below its limit
+// after another. The seed decides which.
+func numbersFrom(seed uint32) func(limit int) int {
+	return func(limit int) int {
 		seed = seed*1664525 + 1013904223
 		return int(seed>>8) % limit
 	}
+}
+
+// variedTree returns a tree of n nodes whose shape and labels the seed decides:
+// each node is put below one of the nodes before it that may have children.
+func variedTree(n int, seed uint32) *drawn {
+	next := numbersFrom(seed)
 	root := &branch{label: next(impl.MaxLabels)}
 	open := []*branch{root}
 	depth := map[*branch]int{}

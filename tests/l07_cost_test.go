@@ -60,9 +60,9 @@ func countedCost(first int, step int) impl.Cost {
 }
 
 func variedCost(seed uint32, limit int) impl.Cost {
+	next := numbersFrom(seed)
 	return costFrom(func(table int, i int) int {
-		seed = seed*1664525 + 1013904223
-		return free(table, i, int(seed>>8)%limit)
+		return free(table, i, next(limit))
 	})
 }
 

@@ -109,10 +109,7 @@ func eachList(pairs []impl.Pair, length int, check func(m []impl.Pair)) {
 // someMapping returns a valid mapping that the seed decides. Each node of a is
 // mapped to one of the next nodes of b that it can be mapped to, or to none.
 func someMapping(a *drawn, b *drawn, seed uint32) []impl.Pair {
-	next := func(limit int) int {
-		seed = seed*1664525 + 1013904223
-		return int(seed>>8) % limit
-	}
+	next := numbersFrom(seed)
 	spread := 1 + next(5)
 	var m []impl.Pair
 	after := 0
