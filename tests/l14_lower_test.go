@@ -11,8 +11,7 @@ import (
 // Promise 9: the script of a valid mapping transforms the first tree into the
 // second one, costs as much as the mapping, and has one operation per change.
 // Promise 7, as far as it speaks of scripts: the script from a tree to itself is
-// empty. These tests hold both for the functions of chapter 14, and for SameOps,
-// which compares scripts.
+// empty. These tests hold both for the functions of chapter 14.
 
 // A standing node is one of the tree that a script changes. It stands for node b
 // of the second tree, or for none if that is -1.
@@ -901,13 +900,6 @@ func TestKeptOfInvalidTrees(t *testing.T) {
 	}
 }
 
-func checkSameOps(t *testing.T, a []impl.Op, b []impl.Op, want bool) {
-	t.Helper()
-	if impl.SameOps(a, b) != want || impl.SameOps(b, a) != want {
-		t.Fatalf("SameOps(%v, %v) = %v, want %v", a, b, !want, want)
-	}
-}
-
 // clonedOps returns a copy of some operations and of each path.
 func clonedOps(ops []impl.Op) []impl.Op {
 	out := slices.Clone(ops)
@@ -915,103 +907,6 @@ func clonedOps(ops []impl.Op) []impl.Op {
 		out[i].Path = slices.Clone(out[i].Path)
 	}
 	return out
-}
-
-// changedOps returns operations that differ from one in a single field each.
-func changedOps(o impl.Op) []impl.Op {
-	var out []impl.Op
-	change := func(edit func(o *impl.Op)) {
-		p := o
-		p.Path = slices.Clone(o.Path)
-		edit(&p)
-		out = append(out, p)
-	}
-	for _, n := range []int{1, -1, 256, 1 << 32, math.MinInt} {
-		change(func(p *impl.Op) { p.Kind += n })
-		change(func(p *impl.Op) { p.Label += n })
-		change(func(p *impl.Op) { p.From += n })
-		change(func(p *impl.Op) { p.Count += n })
-		change(func(p *impl.Op) { p.Path = append(p.Path, n) })
-		for i := range o.Path {
-			change(func(p *impl.Op) { p.Path[i] += n })
-			change(func(p *impl.Op) { p.Path = slices.Insert(p.Path, i, o.Path[i]+n) })
-		}
-	}
-	change(func(p *impl.Op) { p.Path = append(p.Path, 0) })
-	for i := range o.Path {
-		change(func(p *impl.Op) { p.Path = p.Path[:i] })
-		if i > 0 {
-			change(func(p *impl.Op) { p.Path = p.Path[i:] })
-		}
-	}
-	return out
-}
-
-func TestSameOpsOneDifference(t *testing.T) {
-	lists := [][]impl.Op{
-		{{}},
-		{relabeling(nil, 3)},
-		{{Kind: 7, Path: []int{-1, 9, math.MaxInt}, Label: -5, From: math.MinInt, Count: 1 << 40}},
-		{relabeling([]int{1, 2}, 3), deletion([]int{4}), insertion([]int{0, 5, 0}, 1, 2, 3), {}, insertion(nil, 0, 0, 0)},
-		slices.Repeat([]impl.Op{deletion([]int{0, 1})}, 70),
-	}
-	for _, ops := range lists {
-		checkSameOps(t, ops, clonedOps(ops), true)
-		for i, o := range ops {
-			for _, changed := range changedOps(o) {
-				other := clonedOps(ops)
-				other[i] = changed
-				checkSameOps(t, ops, other, false)
-			}
-			checkSameOps(t, ops, ops[:i], false)
-			checkSameOps(t, ops, ops[i+1:], false)
-			checkSameOps(t, ops, slices.Insert(clonedOps(ops), i, o), false)
-		}
-		checkSameOps(t, ops, append(clonedOps(ops), impl.Op{}), false)
-	}
-	a, b := insertion([]int{1}, 2, 3, 4), insertion([]int{1}, 2, 4, 3)
-	checkSameOps(t, []impl.Op{a}, []impl.Op{b}, false)
-	checkSameOps(t, []impl.Op{a, b}, []impl.Op{b, a}, false)
-	checkSameOps(t, []impl.Op{deletion([]int{1, 2})}, []impl.Op{deletion([]int{2, 1})}, false)
-	checkSameOps(t, []impl.Op{deletion([]int{1}), deletion([]int{2})}, []impl.Op{deletion([]int{1, 2}), deletion(nil)}, false)
-}
-
-func TestSameOpsNilAndEmpty(t *testing.T) {
-	empty := [][]impl.Op{nil, {}, make([]impl.Op, 0, 1)}
-	for _, a := range empty {
-		for _, b := range empty {
-			checkSameOps(t, a, b, true)
-		}
-		checkSameOps(t, a, []impl.Op{{}}, false)
-		checkSameOps(t, a, []impl.Op{deletion([]int{1})}, false)
-	}
-	for kind := range 5 {
-		for _, path := range [][]int{nil, {}, make([]int, 0, 1)} {
-			a := impl.Op{Kind: kind, Path: path, Label: 1}
-			for _, other := range [][]int{nil, {}, make([]int, 0, 2)} {
-				checkSameOps(t, []impl.Op{a, a}, []impl.Op{a, {Kind: kind, Path: other, Label: 1}}, true)
-			}
-			checkSameOps(t, []impl.Op{a}, []impl.Op{{Kind: kind, Path: []int{0}, Label: 1}}, false)
-		}
-	}
-}
-
-// Each of many operations, alone and in pairs, is the same as itself and no other.
-func TestSameOpsOfAllLists(t *testing.T) {
-	var some []impl.Op
-	for _, path := range [][]int{nil, {0}, {1}, {0, 0}, {0, 1}, {1, 0}} {
-		for n := range 16 {
-			some = append(some, impl.Op{Kind: 1 + n&1, Path: path, Label: n >> 1 & 1, From: n >> 2 & 1, Count: n >> 3})
-		}
-	}
-	for i, o := range some {
-		for k, p := range some {
-			checkSameOps(t, []impl.Op{o}, clonedOps([]impl.Op{p}), i == k)
-			checkSameOps(t, []impl.Op{o, p}, clonedOps([]impl.Op{p, o}), i == k)
-			checkSameOps(t, []impl.Op{o, p}, clonedOps([]impl.Op{o, p}), true)
-			checkSameOps(t, []impl.Op{o, p, o}, clonedOps([]impl.Op{o, o, o}), i == k)
-		}
-	}
 }
 
 // callLowerFunctions calls the functions of chapter 14 that have nodes and pairs.
@@ -1047,37 +942,40 @@ func TestLowerArgumentsStayAsTheyAre(t *testing.T) {
 			for kind := range 5 {
 				impl.CountOps(ops, kind)
 			}
-			impl.SameOps(ops, ops[1:])
-			impl.SameOps(ops, clonedOps(ops))
 		})
 	}
 }
 
-// No two paths share memory, in one script or between two, nor do the scripts.
+// checkOpsApart holds a call to operations whose paths share no memory, and that
+// share none with those of another call.
+func checkOpsApart(t *testing.T, call func() []impl.Op) {
+	t.Helper()
+	first, second := call(), call()
+	want := clonedOps(first)
+	for i, o := range first {
+		spoilTable(o.Path)
+		for j, p := range first {
+			if j != i && !slices.Equal(p.Path, want[j].Path) {
+				t.Fatalf("%v became %v after a change of %v", want[j], p, want[i])
+			}
+		}
+		copy(o.Path, want[i].Path)
+	}
+	for i := range first[:cap(first)] {
+		spoilTable(first[:cap(first)][i].Path)
+		first[:cap(first)][i] = impl.Op{Kind: -9}
+	}
+	if third := call(); !sameOps(second, want) || !sameOps(third, want) {
+		t.Fatalf("%v became %v, and then %v", want, second, third)
+	}
+}
+
 func TestLowerResultsAreNewMemory(t *testing.T) {
 	trees := append(smallTrees(4), greatTrees()...)
 	for n, a := range trees {
 		for k, b := range trees {
 			m := rooted(someMapping(a, b, uint32(100*n+k)))
-			first, second := impl.Lower(a.nodes, b.nodes, m), impl.Lower(a.nodes, b.nodes, m)
-			want := clonedOps(first)
-			for i, o := range first {
-				spoilTable(o.Path)
-				for j, p := range first {
-					if j != i && !slices.Equal(p.Path, want[j].Path) {
-						t.Fatalf("%v became %v after a change of %v", want[j], p, want[i])
-					}
-				}
-				copy(o.Path, want[i].Path)
-			}
-			for i := range first[:cap(first)] {
-				spoilTable(first[:cap(first)][i].Path)
-				first[:cap(first)][i] = impl.Op{Kind: -9}
-			}
-			if !sameOps(second, want) {
-				t.Fatalf("%v became %v", want, second)
-			}
-			checkLower(t, a.nodes, b.nodes, m, want)
+			checkOpsApart(t, func() []impl.Op { return impl.Lower(a.nodes, b.nodes, m) })
 		}
 	}
 }
@@ -1110,10 +1008,8 @@ func TestLowerUnusedCapacityDoesNotCount(t *testing.T) {
 				t.Fatalf("Kept(%v, %v) = %v", from, m, got)
 			}
 			held, _ := heldOps(want)
-			checkSameOps(t, held, want, true)
 			checkCount(t, held, 77, 0)
 			checkCount(t, held[:0], impl.OpInsert, 0)
-			checkSameOps(t, held[:0], nil, true)
 		}
 	}
 }
